@@ -1,4 +1,4 @@
-// Package entry: what may be a key, and a value, of each table.
+// Package entry: what may be a key, and a value, of each table; entries in their order, and what can be asked of them.
 package entry
 
 import "overlay/api"
@@ -37,18 +37,14 @@ func IsKey(k api.Key) bool {
 	case api.Mac:
 		return k.Bytes[0]&1 == 0
 	case api.Route:
-		return isPrefix(k.Bytes[:4], k.Bytes[4])
+		return isPrefix(k.Bytes[:addressBytes], k.Bytes[addressBytes])
 	}
 	return true
 }
 
 // isPrefix tells whether an address of four bytes has noughts alone behind its first bits, as many as length says.
 func isPrefix(address string, length byte) bool {
-	var bits uint32
-	for i := range len(address) {
-		bits = bits<<8 | uint32(address[i])
-	}
-	return length <= 32 && bits<<length == 0
+	return length <= addressBits && bitsOf(address)<<length == 0
 }
 
 // IsValue tells whether a value is one of a table.

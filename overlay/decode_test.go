@@ -1,7 +1,6 @@
 package overlay_test
 
 import (
-	"slices"
 	"strings"
 	"testing"
 
@@ -13,11 +12,6 @@ import (
 const one = "\x00\x00\x00\x00\x00\x00\x00\x01\x04\x01\x00" + mac + hop + "\x02\x02" + rule + "\x01\x01" + route + hop + "\x01\x02\x00\x06\x06\x01"
 
 var onePieces = []int{0, 8, 9, 11, 17, 21, 23, 25, 27, 32, 36, 38, 40, 42}
-
-// with: a text whose bytes from a place on are others.
-func with(text string, at int, others string) string {
-	return text[:at] + others + text[at+len(others):]
-}
 
 // decoded: does Decode tell that error, and nothing else?
 func decoded(t *testing.T, what, text string, kind api.Errno, at int) {
@@ -65,11 +59,7 @@ func TestP4DecodeOfTheExample(t *testing.T) {
 }
 
 func TestP4DecodeOfBytesThatEndWithinAPiece(t *testing.T) {
-	for i, begin := range onePieces[:len(onePieces)-1] {
-		for end := begin; end < onePieces[i+1]; end++ {
-			decoded(t, "cut off", one[:end], api.ErrShort, begin)
-		}
-	}
+	refuseCutOff(t, decoded, one, onePieces)
 	_, err := overlay.Decode(nil)
 	expect(t, "nil", err, api.ErrShort, 0)
 }
@@ -84,13 +74,7 @@ func TestP4DecodeOfBytesBehindTheEnd(t *testing.T) {
 }
 
 func TestP4DecodeOfPiecesThatMayNotBe(t *testing.T) {
-	for _, c := range []struct {
-		what   string
-		at     int
-		others string
-		kind   api.Errno
-		place  int
-	}{
+	refuse(t, decoded, one, onePieces, []wrongPiece{
 		{"version 0", 7, "\x00", api.ErrVersion, 0},
 		{"version 2^64 - 1", 0, "\xff\xff\xff\xff\xff\xff\xff\xff", api.ErrVersion, 0},
 		{"no changes", 8, "\x00", api.ErrCount, 8},
@@ -109,59 +93,27 @@ func TestP4DecodeOfPiecesThatMayNotBe(t *testing.T) {
 		{"a hop of noughts", 32, "\x00\x00\x00\x00", api.ErrValue, 32},
 		{"protocol 7", 40, "\x07", api.ErrValue, 40},
 		{"neither 0 nor 1", 41, "\x02", api.ErrValue, 40},
-	} {
-		text := with(one, c.at, c.others)
-		decoded(t, c.what, text, c.kind, c.place)
-		decoded(t, c.what+", and bytes behind", text+"?", c.kind, c.place)
-		i, _ := slices.BinarySearch(onePieces, c.place)
-		decoded(t, c.what+", as the last piece", text[:onePieces[i+1]], c.kind, c.place)
-		decoded(t, c.what+", cut off", text[:onePieces[i+1]-1], api.ErrShort, c.place)
-	}
+	})
 	decoded(t, "a key twice, a put first", one[:8]+"\x02"+one[9:21]+"\x02\x00"+mac, api.ErrTwice, 23)
 	decoded(t, "a key twice, then no value", one[:8]+"\x02"+one[9:21]+"\x01\x00"+mac, api.ErrTwice, 23)
 }
 
-// agrees: does what Decode tells of some bytes agree with what Encode tells of the delta, or with what Decode tells of the bytes ahead of the fault?
-func agrees(t *testing.T, text string) {
-	t.Helper()
+// recoded: what Encode tells of the delta that Decode told; with an error a text, if there is anything else beside it.
+func recoded(text string) (string, error) {
 	d, err := overlay.Decode([]byte(text))
-	if err == nil {
-		if b, err := overlay.Encode(d); err != nil || string(b) != text {
-			t.Errorf("%q: %v, whose bytes are %q, %v", text, d, b, err)
+	if err != nil {
+		if d.Version != 0 || d.Ops != nil {
+			return "a delta", err
 		}
-		return
+		return "", err
 	}
-	f := faultOf(t, err)
-	decoded(t, "a fault", text, f.Kind, f.At)
-	ahead := text[:f.At]
-	if f.Kind == api.ErrMore {
-		agrees(t, ahead)
-		return
-	}
-	decoded(t, "the pieces ahead of a fault", ahead, api.ErrShort, f.At)
+	b, _ := overlay.Encode(d)
+	return string(b), nil
 }
 
-func TestP4DecodeAgreesWithEncode(t *testing.T) {
-	for at := range len(one) {
-		for x := range 256 {
-			agrees(t, with(one, at, string([]byte{byte(x)})))
-		}
-	}
-}
+func TestP4DecodeAgreesWithEncode(t *testing.T) { agreeByteByByte(t, recoded, one) }
 
-func TestP1DecodeEndsAndNeverPanics(t *testing.T) {
-	seed := uint32(1)
-	for n := range 20000 {
-		b := []byte(one)[:n%(len(one)+1)]
-		for i := range b { // one byte in eight is another
-			seed = seed*1664525 + 1013904223
-			if seed>>29 == 0 {
-				b[i] = byte(seed >> 16)
-			}
-		}
-		agrees(t, string(b))
-	}
-}
+func TestP1DecodeEndsAndNeverPanics(t *testing.T) { agreeAtNoise(t, recoded, one) }
 
 func TestP2DecodeKeepsAndWritesNothing(t *testing.T) {
 	long := []byte(one + "behind")

@@ -53,8 +53,8 @@ func wrong(op api.Op, earlier []api.Op) api.Errno {
 	return api.OK
 }
 
-// check is why a delta may not be, if so.
-func check(d api.Delta) error {
+// Check is why a delta may not be, if so.
+func Check(d api.Delta) error {
 	if !isVersion(d.Version) {
 		return fault(api.ErrVersion, 0)
 	}
@@ -71,15 +71,14 @@ func check(d api.Delta) error {
 
 // Encode tells a delta as bytes.
 func Encode(d api.Delta) ([]byte, error) {
-	if err := check(d); err != nil {
+	if err := Check(d); err != nil {
 		return nil, err
 	}
 	b := appendNumber(nil, d.Version, versionBytes)
 	b = append(b, byte(len(d.Ops)))
 	for _, op := range d.Ops {
-		b = append(b, byte(op.Kind), byte(op.Key.Table))
-		b = append(b, op.Key.Bytes...)
-		b = append(b, op.Value...)
+		b = append(b, byte(op.Kind))
+		b = appendEntry(b, op.Key, op.Value)
 	}
 	return b, nil
 }

@@ -1,4 +1,4 @@
-// Package wire: deltas and frames as bytes.
+// Package wire: deltas, states and frames as bytes.
 package wire
 
 // appendNumber lays a number's lowest bytes behind b, as many as size says, the highest first.
