@@ -23,6 +23,16 @@ func Compare(a, b api.Key) int {
 // List is entries in their order, each of a key of its own. No list is changed once it is made, so that one who goes over it is not disturbed by later changes.
 type List []Entry
 
+// Ordered is a list of entries that are told in any order.
+func Ordered(all iter.Seq2[api.Key, string]) List {
+	var l List
+	for k, v := range all {
+		l = append(l, Entry{Key: k, Value: v})
+	}
+	slices.SortFunc(l, func(a, b Entry) int { return Compare(a.Key, b.Key) })
+	return l
+}
+
 // find is the place of a key, or the one at which it would stand.
 func (l List) find(k api.Key) (int, bool) {
 	return slices.BinarySearchFunc(l, k, func(e Entry, k api.Key) int { return Compare(e.Key, k) })

@@ -3,6 +3,7 @@ package overlay
 
 import (
 	"overlay/api"
+	"overlay/datapath"
 	"overlay/wire"
 )
 
@@ -14,10 +15,7 @@ func Decode(b []byte) (api.Delta, error) { return wire.Decode(b) }
 
 // EncodeAll tells a version and tables as bytes (P8).
 func EncodeAll(v uint64, t *Tables) ([]byte, error) {
-	if t == nil { // no call may panic: no tables are taken for empty ones
-		t = NewTables()
-	}
-	return wire.EncodeAll(v, t.list)
+	return wire.EncodeAll(v, listOf(t))
 }
 
 // DecodeAll tells the version and the tables that bytes are (P8).
@@ -36,7 +34,7 @@ func Seal(kind byte, body []byte) []byte { return wire.Seal(kind, body) }
 func Unseal(frame []byte) (byte, []byte, error) { return wire.Unseal(frame) }
 
 // Reconcile brings a datapath to tables (P9).
-func Reconcile(p api.Datapath, t *Tables) error { return nil }
+func Reconcile(p api.Datapath, t *Tables) error { return datapath.Reconcile(p, listOf(t)) }
 
 // Agent takes deltas from a controller.
 type Agent struct{ entries }

@@ -17,6 +17,14 @@ type Tables struct{ entries }
 // NewTables makes empty ones (P6).
 func NewTables() *Tables { return &Tables{} }
 
+// listOf is the entries of tables. No call may panic: no tables are taken for empty ones.
+func listOf(t *Tables) entry.List {
+	if t == nil {
+		return nil
+	}
+	return t.list
+}
+
 // Apply makes a delta's changes (P6).
 func (t *Tables) Apply(d api.Delta) error {
 	if err := wire.Check(d); err != nil {

@@ -123,8 +123,9 @@ func TestP6ApplyOfAnyVersion(t *testing.T) {
 	}
 }
 
-func TestP6EntriesAreInTheirOrder(t *testing.T) {
-	want := laid(
+// wide: puts in the order of their entries, which is not that of their bytes as signed numbers, or from their ends.
+func wide() []api.Op {
+	return []api.Op{
 		put(api.Mac, "\x00\x00\x00\x00\x00\x00", hop),
 		put(api.Mac, "\x00\x00\x00\x00\x00\xff", hop),
 		put(api.Mac, "\x00\x00\x00\x00\x01\x00", hop),
@@ -139,7 +140,11 @@ func TestP6EntriesAreInTheirOrder(t *testing.T) {
 		put(api.Acl, "\x00\xff", "\x00\x01"),
 		put(api.Acl, "\x01\x00", "\x06\x00"),
 		put(api.Acl, "\xff\xff", "\x11\x01"),
-	)
+	}
+}
+
+func TestP6EntriesAreInTheirOrder(t *testing.T) {
+	want := laid(wide()...)
 	for step := 1; step < len(want); step++ {
 		x, y := overlay.NewTables(), overlay.NewTables()
 		for from := range step {
@@ -257,17 +262,15 @@ func someChange(n *noise) api.Op {
 	return op
 }
 
-// sorted: the entries of a map, in their order.
-func sorted(m map[api.Key]string) []entry {
-	keys := slices.SortedFunc(maps.Keys(m), func(a, b api.Key) int {
-		return cmp.Or(a.Table-b.Table, strings.Compare(a.Bytes, b.Bytes))
+// inOrder: entries by table and key.
+func inOrder(l []entry) []entry {
+	return slices.SortedFunc(slices.Values(l), func(a, b entry) int {
+		return cmp.Or(cmp.Compare(a.key.Table, b.key.Table), strings.Compare(a.key.Bytes, b.key.Bytes))
 	})
-	var l []entry
-	for _, k := range keys {
-		l = append(l, entry{k, m[k]})
-	}
-	return l
 }
+
+// sorted: the entries of a map, in their order.
+func sorted(m map[api.Key]string) []entry { return inOrder(told(maps.All(m))) }
 
 func TestP6TablesAreAsAMap(t *testing.T) {
 	var n noise
