@@ -6,19 +6,24 @@ import (
 	"overlay/entry"
 )
 
-// Reconcile brings a datapath to a list of entries, or, if it has not the room, does nothing. What is taken away comes ahead of what is laid, so that its room is free by then.
+// Reconcile brings a datapath to a list of entries, or, if it has not the room, does nothing.
 func Reconcile(p api.Datapath, want entry.List) error {
-	if err := full(p, want); err != nil {
+	if err := Full(p, want); err != nil {
 		return err
 	}
-	there := held(p)
-	dropOthers(p, there, want)
-	putMissing(p, there, want)
+	Bring(p, want)
 	return nil
 }
 
-// full is ErrFull and the first table that has more entries than a datapath has room for; nil, if there is none.
-func full(p api.Datapath, want entry.List) error {
+// Bring brings a datapath to a list of entries for which it has the room. What is taken away comes ahead of what is laid, so that its room is free by then.
+func Bring(p api.Datapath, want entry.List) {
+	there := held(p)
+	dropOthers(p, there, want)
+	putMissing(p, there, want)
+}
+
+// Full is ErrFull and the first table that has more entries than a datapath has room for; nil, if there is none.
+func Full(p api.Datapath, want entry.List) error {
 	for table := range api.Tables {
 		if want.Count(table) > room(p, table) {
 			return &api.Fault{Kind: api.ErrFull, At: table}

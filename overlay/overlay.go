@@ -35,24 +35,3 @@ func Unseal(frame []byte) (byte, []byte, error) { return wire.Unseal(frame) }
 
 // Reconcile brings a datapath to tables (P9).
 func Reconcile(p api.Datapath, t *Tables) error { return datapath.Reconcile(p, listOf(t)) }
-
-// Agent takes deltas from a controller.
-type Agent struct{ entries }
-
-// Start begins from what a disk holds (P10).
-func Start(d api.Disk, p api.Datapath) (*Agent, error) { return nil, nil }
-
-// Receive takes a frame from the controller (P11, P12).
-func (a *Agent) Receive(frame []byte) {}
-
-// Tick: time has gone by (P11).
-func (a *Agent) Tick() {}
-
-// Next takes the next frame to the controller (P11).
-func (a *Agent) Next() ([]byte, bool) { return nil, false }
-
-// Version tells which version the tables have (P11).
-func (a *Agent) Version() uint64 { return 0 }
-
-// Degraded tells why nothing is taken any more (P13).
-func (a *Agent) Degraded() error { return nil }

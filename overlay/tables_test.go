@@ -55,8 +55,18 @@ func apply(t *testing.T, x *overlay.Tables, ops ...api.Op) {
 	}
 }
 
-// hold: have tables just these entries, in this order, and Count and Size that go with them?
-func hold(t *testing.T, what string, x *overlay.Tables, want []entry) {
+// holder is what tables and agents have in common.
+type holder interface {
+	Entries() iter.Seq2[api.Key, string]
+	Count(table int) int
+	Size() int
+	Mac(address string) (string, bool)
+	Route(address string) (string, bool)
+	Acl(protocol int) (int, bool)
+}
+
+// hold: have tables, or an agent, just these entries, in this order, and Count and Size that go with them?
+func hold(t *testing.T, what string, x holder, want []entry) {
 	t.Helper()
 	if got := told(x.Entries()); !slices.Equal(got, want) {
 		t.Errorf("%s: %x, want %x", what, got, want)
