@@ -14,8 +14,8 @@ import (
 type Agent struct {
 	entries
 	version uint64
+	store   *store.Store
 	path    api.Datapath
-	most    int // what Size may be
 	state   incoming
 	out     outbox
 	why     api.Fault // why it is degraded (OK: it is not)
@@ -23,14 +23,14 @@ type Agent struct {
 
 // Start begins from what a disk holds (P10).
 func Start(d api.Disk, p api.Datapath) (*Agent, error) {
-	sectors, err := store.Read(d)
+	s, version, list, err := store.Open(d)
 	if err != nil {
 		return nil, err
 	}
-	a := &Agent{path: p, most: store.Room(len(sectors)), out: newOutbox()}
-	if err := datapath.Reconcile(p, a.list); err != nil {
+	if err := datapath.Reconcile(p, list); err != nil {
 		return nil, err
 	}
+	a := &Agent{entries: entries{list}, version: version, store: s, path: p, out: newOutbox()}
 	a.tellStand()
 	return a, nil
 }
@@ -76,11 +76,14 @@ func (a *Agent) Degraded() error {
 
 func (a *Agent) isDegraded() bool { return a.why.Kind != api.OK }
 
-// takeIn makes a version and its entries the agent's, or, if there is no room for them, degrades it.
-func (a *Agent) takeIn(version uint64, list entry.List) {
-	if err := a.noRoom(list); err != nil {
-		a.why = faultOf(err)
-		a.tellFault(a.why.Kind)
+// takeIn makes a version and its entries the agent's, once they are kept. If there is no room for them, or they can't be kept, it degrades the agent.
+func (a *Agent) takeIn(version uint64, list entry.List, keep func() error) {
+	err := a.noRoom(list)
+	if err == nil {
+		err = keep()
+	}
+	if err != nil {
+		a.degrade(err)
 		return
 	}
 	a.list = list
@@ -89,12 +92,18 @@ func (a *Agent) takeIn(version uint64, list entry.List) {
 	a.tellAck()
 }
 
+// degrade lets the agent take nothing any more.
+func (a *Agent) degrade(why error) {
+	a.why = faultOf(why)
+	a.tellFault(a.why.Kind)
+}
+
 // noRoom is why entries may not be the agent's, if so.
 func (a *Agent) noRoom(list entry.List) error {
 	if err := datapath.Full(a.path, list); err != nil {
 		return err
 	}
-	if list.Size() > a.most {
+	if list.Size() > a.store.Room() {
 		return &api.Fault{Kind: api.ErrRoom}
 	}
 	return nil

@@ -45,7 +45,8 @@ func (a *Agent) takeDelta(body []byte) error {
 	case d.Version > a.version+1:
 		a.tellStand()
 	default:
-		a.takeIn(d.Version, a.list.After(d.Ops))
+		after := a.list.After(d.Ops)
+		a.takeIn(d.Version, after, func() error { return a.store.KeepDelta(body, d.Version, after) })
 	}
 	return nil
 }
@@ -97,6 +98,6 @@ func (a *Agent) takeState() error {
 		a.tellAck()
 		return nil
 	}
-	a.takeIn(s.version, list)
+	a.takeIn(s.version, list, func() error { return a.store.KeepState(s.version, list) })
 	return nil
 }

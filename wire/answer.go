@@ -16,5 +16,5 @@ func Want(piece int) []byte { return Seal(api.FrameWant, []byte{byte(piece)}) }
 
 // sealVersion makes a frame of a kind, and of a version.
 func sealVersion(kind byte, v uint64) []byte {
-	return Seal(kind, appendNumber(nil, v, versionBytes))
+	return Seal(kind, AppendNumber(nil, v, versionBytes))
 }

@@ -74,7 +74,7 @@ func Encode(d api.Delta) ([]byte, error) {
 	if err := Check(d); err != nil {
 		return nil, err
 	}
-	b := appendNumber(nil, d.Version, versionBytes)
+	b := AppendNumber(nil, d.Version, versionBytes)
 	b = append(b, byte(len(d.Ops)))
 	for _, op := range d.Ops {
 		b = append(b, byte(op.Kind))

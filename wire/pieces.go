@@ -26,7 +26,7 @@ func DecodeBegin(b []byte) (uint64, int, error) {
 	if err := sized(b, beginBytes, beginBytes); err != nil {
 		return 0, 0, err
 	}
-	v, pieces := number(b[:versionBytes]), int(b[versionBytes])
+	v, pieces := Number(b[:versionBytes]), int(b[versionBytes])
 	switch {
 	case !isVersion(v):
 		return 0, 0, fault(api.ErrVersion, 0)

@@ -33,7 +33,7 @@ func (r *reader) version() (uint64, error) {
 	if err != nil {
 		return 0, err
 	}
-	v := number(p)
+	v := Number(p)
 	if !isVersion(v) {
 		return 0, r.fault(api.ErrVersion)
 	}

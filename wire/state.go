@@ -5,7 +5,12 @@ import (
 	"overlay/entry"
 )
 
-const entriesBytes = 2
+const (
+	entriesBytes = 2
+
+	// StateHead is how many bytes of a state come ahead of its entries.
+	StateHead = versionBytes + entriesBytes
+)
 
 // appendEntry lays an entry's table, key and value behind b.
 func appendEntry(b []byte, k api.Key, value string) []byte {
@@ -19,8 +24,8 @@ func EncodeAll(v uint64, l entry.List) ([]byte, error) {
 	if !isVersion(v) {
 		return nil, fault(api.ErrVersion, 0)
 	}
-	b := appendNumber(nil, v, versionBytes)
-	b = appendNumber(b, uint64(len(l)), entriesBytes)
+	b := AppendNumber(nil, v, versionBytes)
+	b = AppendNumber(b, uint64(len(l)), entriesBytes)
 	for k, value := range l.All() {
 		b = appendEntry(b, k, value)
 	}
@@ -51,7 +56,7 @@ func (r *reader) state() (uint64, entry.List, error) {
 		return 0, nil, err
 	}
 	var l entry.List
-	for range number(count) {
+	for range Number(count) {
 		e, err := r.entry(l)
 		if err != nil {
 			return 0, nil, err
