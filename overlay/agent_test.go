@@ -1,7 +1,6 @@
 package overlay_test
 
 import (
-	"errors"
 	"slices"
 	"strconv"
 	"strings"
@@ -32,32 +31,6 @@ func TestP10StartBringsTheDatapathToTheTables(t *testing.T) {
 		r := &rig{t: t, p: p, a: a}
 		r.tells("Start", "R0")
 		r.stands("Start", 0, nil)
-	}
-}
-
-func TestP10StartOnADiskThatFails(t *testing.T) {
-	old := laid(put(api.Mac, mac, hop))
-	d := diskOf(api.MinSectors)
-	_, err := overlay.Start(d, pathOf(t, plenty, nil))
-	expect(t, "a disk that does not fail", err, api.OK, 0)
-	failures := 0
-	for left := range d.asked {
-		d, p := diskOf(api.MinSectors), pathOf(t, plenty, old)
-		d.left = left
-		a, err := overlay.Start(d, p)
-		if err == nil {
-			continue // what was asked there may not fail
-		}
-		failures++
-		f := faultOf(t, err)
-		var io *api.IOError
-		if a != nil || f.Kind != api.ErrDisk || f.At != 0 || !errors.Is(err, api.ErrDisk) || !errors.As(err, &io) || f.Cause != error(io) {
-			t.Errorf("the disk fails at call %d: %v, %v", left, a, err)
-		}
-		p.holds("a disk that fails", old, nil)
-	}
-	if failures == 0 {
-		t.Error("Start asks nothing of the disk")
 	}
 }
 

@@ -10,18 +10,30 @@ import (
 	"overlay/overlay"
 )
 
+// everyFrame: frames of each kind to an agent of that version: such as it takes in, or answers, or finds a fault with, if it is not degraded.
+func everyFrame(t *testing.T, version uint64) []string {
+	t.Helper()
+	return []string{
+		"", "?", ask(), sealed(99, ""), sealed(api.FrameAsk, "a"), sealed(api.FrameDelta, ""),
+		change(t, version+1, drop(api.Mac, mac)), change(t, version+2, drop(api.Mac, mac)), change(t, max(version, 1), drop(api.Mac, mac)),
+		begin(version+1, 1), piece(0, eight(version+1)+"\x00\x00"), begin(0, 0), piece(0, ""),
+	}
+}
+
 // degraded: is the agent degraded for that, does it say so of every frame and Tick, does it do nothing else, and tell its version and these entries?
 func (r *rig) degraded(what string, kind api.Errno, at int, version uint64, want []entry) {
 	r.t.Helper()
+	r.takesNothing(what, version, want, func() { r.t.Helper(); expect(r.t, what, r.a.Degraded(), kind, at) })
+}
+
+// takesNothing: does an agent that is degraded say so of every frame and Tick, do nothing else, and tell its version, these entries, and why?
+func (r *rig) takesNothing(what string, version uint64, want []entry, tellsWhy func()) {
+	r.t.Helper()
 	r.p.done = nil
-	for _, frame := range []string{
-		"", "?", ask(), sealed(99, ""), sealed(api.FrameAsk, "a"), sealed(api.FrameDelta, ""),
-		change(r.t, version+1, drop(api.Mac, mac)), change(r.t, version+2, drop(api.Mac, mac)), change(r.t, max(version, 1), drop(api.Mac, mac)),
-		begin(version+1, 1), piece(0, eight(version+1)+"\x00\x00"), begin(0, 0), piece(0, ""),
-	} {
+	for _, frame := range everyFrame(r.t, version) {
 		r.idle(what+": a frame", frame, "E13")
 		r.ticks(what+": Tick", "E13")
-		expect(r.t, what, r.a.Degraded(), kind, at)
+		tellsWhy()
 	}
 	if r.a.Version() != version {
 		r.t.Errorf("%s: version %d, want %d", what, r.a.Version(), version)

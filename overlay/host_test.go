@@ -1,7 +1,6 @@
 package overlay_test
 
 import (
-	"errors"
 	"iter"
 	"maps"
 	"slices"
@@ -20,11 +19,14 @@ type host struct {
 	late    []late
 	entries map[api.Key]string
 	room    [api.Tables]int
-	left    int  // so many operations more are done (below 0: all)
-	stopped bool // one came too late
-	logging bool // the first of those was one of the disk
-	fails   int  // behind so many calls the disk fails once (below 0: it does not)
-	writes  int  // how many there were
+	left    int   // so many operations more are done (below 0: all)
+	stopped bool  // one came too late
+	logging bool  // the first of those was one of the disk
+	fails   int   // behind so many calls the disk fails once (below 0: it does not)
+	own     error // that is what it answers then (nil: an IOError)
+	failed  error // what it answered when it failed last
+	asked   int   // how many calls of the disk there were
+	writes  int   // how many of them wrote
 }
 
 // late is a sector that was written, and has not taken hold.
@@ -68,10 +70,31 @@ func (h *host) losesPower(choice int) *host {
 	return h.goesOn()
 }
 
-// choices: a host for each choice of writes that take hold when the power is lost.
+// choices: a host for each choice of writes that take hold when the power is lost; where these are too many, for few of them.
 func (h *host) choices() iter.Seq2[int, *host] {
+	if len(h.late) > 8 {
+		return h.fewChoices()
+	}
 	return func(yield func(int, *host) bool) {
 		for choice := range 1 << len(h.late) {
+			if !yield(choice, h.twin().losesPower(choice)) {
+				return
+			}
+		}
+	}
+}
+
+// fewChoices: a host for each of these choices: no write takes hold, or all do, or one alone, or all but one.
+func (h *host) fewChoices() iter.Seq2[int, *host] {
+	all := 1<<len(h.late) - 1
+	few := []int{0, all}
+	for i := range h.late {
+		few = append(few, 1<<i, all&^(1<<i))
+	}
+	slices.Sort(few)
+	few = slices.Compact(few)
+	return func(yield func(int, *host) bool) {
+		for _, choice := range few {
 			if !yield(choice, h.twin().losesPower(choice)) {
 				return
 			}
@@ -92,6 +115,7 @@ func (h *host) tooLate(ofDisk bool) bool {
 
 // failure: one call of the disk more: does it fail?
 func (h *host) failure(sector int) error {
+	h.asked++
 	if h.fails < 0 {
 		return nil
 	}
@@ -99,13 +123,20 @@ func (h *host) failure(sector int) error {
 	if h.fails >= 0 {
 		return nil
 	}
-	return &api.IOError{Sector: sector}
+	h.failed = h.own
+	if h.own == nil {
+		h.failed = &api.IOError{Sector: sector}
+	}
+	return h.failed
 }
 
 // lateDisk is a host's disk.
 type lateDisk struct{ *host }
 
-func (d lateDisk) Sectors() int { return len(d.held) }
+func (d lateDisk) Sectors() int {
+	d.asked++
+	return len(d.held)
+}
 
 func (d lateDisk) Read(n int) ([]byte, error) {
 	if err := d.failure(n); err != nil {
@@ -174,30 +205,6 @@ func (h *host) starts() *overlay.Agent {
 	r := &rig{t: h.t, a: a}
 	r.tells("Start", "R"+strconv.FormatUint(a.Version(), 10))
 	return a
-}
-
-// failsToStart: does Start tell that the disk has failed, and do nothing?
-func (h *host) failsToStart(what string) {
-	h.t.Helper()
-	entries, writes := maps.Clone(h.entries), h.writes
-	a, err := overlay.Start(lateDisk{h}, latePath{h})
-	if a != nil {
-		h.t.Errorf("%s: an agent, and %v", what, err)
-	}
-	diskFailed(h.t, what, err)
-	if !maps.Equal(h.entries, entries) || h.writes != writes {
-		h.t.Errorf("%s: something was done", what)
-	}
-}
-
-// diskFailed: is an error that of a disk, with the disk's own as its cause?
-func diskFailed(t *testing.T, what string, err error) {
-	t.Helper()
-	f := faultOf(t, err)
-	var io *api.IOError
-	if f.Kind != api.ErrDisk || f.At != 0 || !errors.Is(err, api.ErrDisk) || !errors.As(err, &io) || f.Cause != error(io) {
-		t.Errorf("%s: %v", what, err)
-	}
 }
 
 // step is what a delta or a state brings an agent to.

@@ -68,10 +68,12 @@ func (h *host) finds(what string, s *story, first, last int) int {
 // had: is each of some entries one that the tables had, at a step, or an earlier one?
 func (s *story) had(what string, n int, entries []entry) {
 	s.t.Helper()
-	for _, e := range entries {
-		if !slices.ContainsFunc(s.steps[:n+1], func(earlier step) bool { return slices.Contains(earlier.after, e) }) {
-			s.t.Errorf("%s: the datapath has %x, which no tables had", what, e)
-		}
+	for n >= 0 && len(entries) > 0 { // from the last on, which has most of them
+		entries = slices.DeleteFunc(entries, func(e entry) bool { return slices.Contains(s.steps[n].after, e) })
+		n--
+	}
+	if len(entries) > 0 {
+		s.t.Errorf("%s: the datapath has %x, which no tables had", what, entries)
 	}
 }
 
@@ -195,90 +197,6 @@ func TestP14WhatIsTakenInIsLoggedFirst(t *testing.T) {
 			t.Errorf("version %d is acknowledged, but not flushed", next.version)
 		}
 	}
-}
-
-func TestP13P14TheDiskFails(t *testing.T) {
-	s := long(t)
-	calls := 0
-	for ; ; calls++ {
-		h := hostOf(t, api.MinSectors)
-		a := h.starts()
-		h.fails = calls
-		n := s.degrades(a, h)
-		if n == 0 {
-			break
-		}
-		what := "the disk fails at call " + strconv.Itoa(calls)
-		for choice, g := range h.choices() {
-			g.stopsInStart(what, s, g.twin().finds(what+", choice "+strconv.Itoa(choice), s, n-1, n), n)
-		}
-		h.twin().goesOn().keepsWhatIsFound(what, s, n-1, n)
-	}
-	if calls < 4*len(s.steps) {
-		t.Errorf("the test tries too little: %d failures", calls)
-	}
-}
-
-// degrades: an agent is told a story, until the disk fails: is it degraded then, and stays where it was? The step at which that is (0: the disk does not fail).
-func (s *story) degrades(a *overlay.Agent, h *host) int {
-	s.t.Helper()
-	for i, next := range s.steps[1:] {
-		was := s.steps[i]
-		answer := next.takes(s.t, a)
-		if a.Degraded() == nil {
-			continue
-		}
-		if answer != "E12" {
-			s.t.Errorf("the disk fails: %s", answer)
-		}
-		diskFailed(s.t, "degraded", a.Degraded())
-		g := h.twin()
-		next.takes(s.t, a)
-		a.Tick()
-		r := &rig{t: s.t, a: a}
-		r.tells("degraded, and the disk has failed only once", "E13")
-		if a.Version() != was.version || !slices.Equal(told(a.Entries()), was.after) || !slices.Equal(sorted(h.entries), was.after) {
-			s.t.Errorf("degraded: version %d, %x, the datapath has %x", a.Version(), told(a.Entries()), sorted(h.entries))
-		}
-		diskFailed(s.t, "degraded for good", a.Degraded())
-		if h.writes != g.writes || len(h.late) != len(g.late) {
-			s.t.Error("degraded, and something was written")
-		}
-		return i + 1
-	}
-	return 0
-}
-
-func TestP10StartFailsOnADiskThatHoldsSomething(t *testing.T) {
-	h, s := hostOf(t, api.MinSectors), long(t)
-	a := h.starts()
-	failures := 0
-	for n, next := range s.steps[1:] {
-		next.takenBy(t, a)
-		for calls := 0; ; calls++ {
-			g := h.twin()
-			if g.fails = calls; g.answers() {
-				break
-			}
-			failures++
-			g = h.twin()
-			g.fails = calls
-			g.failsToStart("the disk fails at call " + strconv.Itoa(calls))
-			g.losesPower(0).finds("the disk works again", s, n+1, n+1)
-		}
-	}
-	if failures < 4*len(s.steps) {
-		t.Errorf("the test tries too little: %d failures", failures)
-	}
-}
-
-// answers: does Start give an agent?
-func (h *host) answers() bool {
-	a, err := overlay.Start(lateDisk{h}, latePath{h})
-	if (a == nil) != (err != nil) {
-		h.t.Errorf("Start: %v, %v", a, err)
-	}
-	return err == nil
 }
 
 func TestP10StartBringsAnyDatapathToWhatTheDiskHolds(t *testing.T) {

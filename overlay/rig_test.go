@@ -15,7 +15,8 @@ import (
 type disk struct {
 	sectors [][]byte
 	asked   int
-	left    int // so many calls more do not fail (below 0: none fails)
+	left    int   // so many calls more do not fail (below 0: none fails)
+	last    error // what it answered when it failed last
 }
 
 // diskOf: a disk of so many sectors.
@@ -31,7 +32,8 @@ func diskOf(sectors int) *disk {
 func (d *disk) failed(at int) error {
 	d.asked++
 	if d.left == 0 {
-		return &api.IOError{Sector: at}
+		d.last = &api.IOError{Sector: at}
+		return d.last
 	}
 	d.left--
 	return nil

@@ -20,6 +20,7 @@ type trial struct {
 	fails  int
 	old    int // of both: so often what was ahead of it was found
 	starts int
+	missed int // Starts in which the disk failed
 }
 
 // receives: a frame comes, and perhaps all stops, or the disk fails: what may be found then.
@@ -51,12 +52,12 @@ func (x *trial) failed() bool {
 func (x *trial) again(before model, logging bool) {
 	x.t.Helper()
 	x.starts++
-	if x.below(3) == 0 {
-		x.h.goesOn()
-	} else {
-		x.h.losesPower(x.below(1 << 12))
-	}
+	x.rests()
+	least := x.tries()
 	x.a = x.h.starts()
+	if x.a.Version() < least {
+		x.t.Errorf("version %d, but a Start ahead of it has found %d", x.a.Version(), least)
+	}
 	if logging && x.a.Version() == before.version {
 		x.m = before
 		x.old++
@@ -64,6 +65,31 @@ func (x *trial) again(before model, logging bool) {
 	x.m.begun, x.m.waits, x.m.why = 0, nil, api.Fault{}
 	x.agrees()
 	x.harms()
+}
+
+// tries: agents are started, perhaps, while the disk fails, perhaps: the version that the last one has found.
+func (x *trial) tries() uint64 {
+	x.t.Helper()
+	least := uint64(0)
+	for x.below(3) == 0 {
+		x.h.fails = x.below(8)
+		if a := x.h.tries("without a plan"); a == nil {
+			x.missed++
+		} else if least = max(least, a.Version()); a.Version() < least {
+			x.t.Errorf("version %d, but a Start ahead of it has found %d", a.Version(), least)
+		}
+		x.rests()
+	}
+	return least
+}
+
+// rests: the disk goes on, or its power is lost.
+func (x *trial) rests() {
+	if x.below(3) == 0 {
+		x.h.goesOn()
+	} else {
+		x.h.losesPower(x.below(1 << 12))
+	}
 }
 
 // harms: perhaps all stops behind some operations, or the disk fails behind some calls.
@@ -111,8 +137,8 @@ func TestP14WithoutAPlan(t *testing.T) {
 			}
 		}
 	}
-	if x.stops < 400 || x.fails < 200 || x.old < 200 || x.stops+x.fails-x.old < 200 || x.starts < 1500 {
-		t.Errorf("the test tries too little: %d stops, %d times what was ahead, %d failures, %d starts", x.stops, x.old, x.fails, x.starts)
+	if x.stops < 400 || x.fails < 200 || x.old < 200 || x.stops+x.fails-x.old < 200 || x.starts < 1500 || x.missed < 500 {
+		t.Errorf("the test tries too little: %d stops, %d times what was ahead, %d failures, %d starts, %d in which the disk failed", x.stops, x.old, x.fails, x.starts, x.missed)
 	}
 }
 

@@ -1,6 +1,7 @@
 package store
 
 import (
+	"errors"
 	"slices"
 	"strconv"
 	"testing"
@@ -15,15 +16,32 @@ type disk struct {
 	sectors [][]byte
 	written []int
 	flushed []int // how many were written ahead of each flush
+	left    int   // so many calls more do not fail (below 0: none fails)
+	failed  bool
 }
 
-func diskOf(sectors int) *disk { return &disk{sectors: make([][]byte, sectors)} }
+func diskOf(sectors int) *disk { return &disk{sectors: make([][]byte, sectors), left: -1} }
+
+var errWorn = errors.New("worn out")
+
+// failure: one call more: does it fail?
+func (d *disk) failure() error {
+	if d.left == 0 {
+		d.failed = true
+		return errWorn
+	}
+	d.left--
+	return nil
+}
 
 func (d *disk) Sectors() int { return len(d.sectors) }
 
-func (d *disk) Read(n int) ([]byte, error) { return slices.Clone(d.sectors[n]), nil }
+func (d *disk) Read(n int) ([]byte, error) { return slices.Clone(d.sectors[n]), d.failure() }
 
 func (d *disk) Write(n int, data []byte) error {
+	if err := d.failure(); err != nil {
+		return err
+	}
 	end := len(data)
 	for end > 0 && data[end-1] == 0 {
 		end--
@@ -35,7 +53,7 @@ func (d *disk) Write(n int, data []byte) error {
 
 func (d *disk) Flush() error {
 	d.flushed = append(d.flushed, len(d.written))
-	return nil
+	return d.failure()
 }
 
 // opened: what a disk holds.
@@ -219,6 +237,61 @@ func after(t *testing.T) entry.List {
 	t.Helper()
 	d, _ := long(t, 8)
 	return macs(20).After(d.Ops)
+}
+
+// wraps: is an error that of a disk that has failed?
+func wraps(t *testing.T, what string, err error) {
+	t.Helper()
+	f, isFault := err.(*api.Fault)
+	if !isFault || *f != (api.Fault{Kind: api.ErrDisk, Cause: errWorn}) {
+		t.Errorf("%s: %v", what, err)
+	}
+}
+
+func TestOpenFailsWhereTheDiskDoes(t *testing.T) {
+	calls := 0
+	for ; ; calls++ {
+		d := written(t)
+		d.left = calls
+		s, version, list, err := Open(d)
+		if !d.failed {
+			keeps(t, err)
+			break
+		}
+		wraps(t, "Open", err)
+		if s != nil || version != 0 || list != nil {
+			t.Errorf("Open: an error, and %v, %d, %x", s, version, list)
+		}
+	}
+	if calls < 1+1+4+3*2 { // a flush, the root, the state, and three deltas
+		t.Errorf("Open asks too little: %d calls", calls)
+	}
+}
+
+func TestKeepFailsWhereTheDiskDoes(t *testing.T) {
+	_, b := long(t, 9)
+	list := macs(30)
+	for what, keep := range map[string]func(*Store) error{
+		"a delta":                func(s *Store) error { return s.KeepDelta(b, 9, list) },
+		"a state":                func(s *Store) error { return s.KeepState(9, list) },
+		"a delta, no slots left": func(s *Store) error { s.layout.slots = 3; return s.KeepDelta(b, 9, list) },
+	} {
+		for calls := 0; ; calls++ {
+			d := written(t)
+			s, _, _ := opened(t, d)
+			d.left, d.written = calls, nil
+			err := keep(s)
+			d.left = -1
+			if !d.failed {
+				keeps(t, err)
+				break
+			}
+			wraps(t, what, err)
+			if !slices.Contains(d.written, rootSector) { // nothing tells of it
+				holds(t, what, d, 8, after(t))
+			}
+		}
+	}
 }
 
 func TestNoDisk(t *testing.T) {
